@@ -159,13 +159,20 @@ func (j judge) answer(e api.Expr) (int, api.Errno) {
 	return j.typed(e), api.OK
 }
 
-// holds holds an expression, and its text, against the chapter's words, and tells the error.
-func (j judge) holds(t *testing.T, e api.Expr) api.Errno {
+// types holds an expression against the chapter's words, and tells the error.
+func (j judge) types(t *testing.T, e api.Expr) api.Errno {
 	t.Helper()
 	want, wrong := j.answer(e)
 	if got, e1 := check.Type(e); got != want || e1 != wrong {
 		t.Errorf("Type(%.300q of %v) = %d, %d, not %d, %d", print.Expr(e), e, got, int(e1), want, int(wrong))
 	}
+	return wrong
+}
+
+// holds holds an expression, and its text, against the chapter's words, and tells the error.
+func (j judge) holds(t *testing.T, e api.Expr) api.Errno {
+	t.Helper()
+	wrong := j.types(t, e)
 	s := print.Expr(e)
 	if back, e1 := syntax.Parse(s); e1 == api.OK && syntax.Same(back, e) {
 		j.compiles(t, s)
@@ -452,7 +459,7 @@ func TestAllPlaces(t *testing.T) {
 		for _, inner := range around(inmost) {
 			count[j.holds(t, inner)]++
 			for _, e := range around(inner) {
-				count[j.holds(t, e)]++
+				count[j.types(t, e)]++
 			}
 		}
 		if t.Failed() {
